@@ -6,6 +6,7 @@ import (
 	"testing"
 
 	"furrow/api"
+	"furrow/trial"
 	"furrow/utf"
 )
 
@@ -36,8 +37,8 @@ func TestPlacesExample(t *testing.T) {
 	if s, code := p.Slice(1, 3); s != "\xc3\xa9\xe2" || code != api.OK {
 		t.Errorf("Slice(1, 3) = %x, %v", s, code)
 	}
-	want := []pair[int, rune]{{1, 0xE9}, {2, 0xFFFD}}
-	if got := collect(p.Walk(1)); !slices.Equal(got, want) {
+	want := []trial.Pair[int, rune]{{A: 1, B: 0xE9}, {A: 2, B: 0xFFFD}}
+	if got := trial.Collect(p.Walk(1)); !slices.Equal(got, want) {
 		t.Errorf("Walk(1) = %v", got)
 	}
 }
@@ -67,12 +68,12 @@ func TestPlacesOutside(t *testing.T) {
 		}
 	}
 	for _, from := range []int{-1, math.MinInt} {
-		if got := collect(p.Walk(from)); !slices.Equal(got, collect(p.Walk(0))) || len(got) != 3 {
+		if got := trial.Collect(p.Walk(from)); !slices.Equal(got, trial.Collect(p.Walk(0))) || len(got) != 3 {
 			t.Errorf("Walk(%d) = %v", from, got)
 		}
 	}
 	for _, from := range []int{3, 4, math.MaxInt} {
-		if got := collect(p.Walk(from)); len(got) != 0 {
+		if got := trial.Collect(p.Walk(from)); len(got) != 0 {
 			t.Errorf("Walk(%d) = %v", from, got)
 		}
 	}
@@ -102,7 +103,7 @@ func TestPlacesOfEmpty(t *testing.T) {
 	if got, code := p.At(1); got != 0 || code != api.ErrArg {
 		t.Error(got, code)
 	}
-	if got := collect(p.Walk(0)); len(got) != 0 {
+	if got := trial.Collect(p.Walk(0)); len(got) != 0 {
 		t.Error(got)
 	}
 }
@@ -129,7 +130,7 @@ func TestPlacesOfNobody(t *testing.T) {
 			if p.Begins(n) {
 				t.Errorf("%s: Begins(%d)", name, n)
 			}
-			if got := collect(p.Walk(n)); len(got) != 0 {
+			if got := trial.Collect(p.Walk(n)); len(got) != 0 {
 				t.Errorf("%s: Walk(%d) = %v", name, n, got)
 			}
 		}
@@ -138,15 +139,15 @@ func TestPlacesOfNobody(t *testing.T) {
 
 // P1.5, P1.7: all places of all texts.
 func TestPlacesOfAll(t *testing.T) {
-	for s := range corpus() {
-		p, all := utf.New(s), ranged(s)
+	for s := range trial.Texts() {
+		p, all := utf.New(s), trial.Ranged(s)
 		if p.Text() != s || p.Len() != len(all) || p.Len() != utf.Count(s) {
 			t.Fatalf("%x: Text %x, Len %d", s, p.Text(), p.Len())
 		}
 		for at, c := range all {
 			b, code := p.Byte(at)
 			r, other := p.Rune(at)
-			if b != c.a || r != c.b || code != api.OK || other != api.OK {
+			if b != c.A || r != c.B || code != api.OK || other != api.OK {
 				t.Fatalf("%x: %d: Byte %d, %v; Rune %x, %v", s, at, b, code, r, other)
 			}
 			if back, code := p.At(b); back != at || code != api.OK {
@@ -161,12 +162,12 @@ func TestPlacesOfAll(t *testing.T) {
 }
 
 // checkBytes holds what p tells of each byte against what a range over s told.
-func checkBytes(t *testing.T, s string, p *utf.Places, all []pair[int, rune]) {
+func checkBytes(t *testing.T, s string, p *utf.Places, all []trial.Pair[int, rune]) {
 	t.Helper()
 	begins := make([]bool, len(s)+1)
 	begins[len(s)] = true
 	for _, c := range all {
-		begins[c.a] = true
+		begins[c.A] = true
 	}
 	count, last := 0, 0
 	for b, does := range begins {
@@ -184,21 +185,21 @@ func checkBytes(t *testing.T, s string, p *utf.Places, all []pair[int, rune]) {
 
 // P1.5
 func TestSlicesAndWalks(t *testing.T) {
-	for _, s := range append(longer(), "", "a", "\xff", fffd, "a\xc3\xa9\xe2\x82") {
+	for _, s := range append(trial.LongTexts(), "", "a", "\xff", fffd, "a\xc3\xa9\xe2\x82") {
 		p, spots := utf.New(s), slices.Collect(utf.Spots(s))
 		for from := range p.Len() + 1 {
 			want := ""
-			var walk []pair[int, rune]
+			var walk []trial.Pair[int, rune]
 			for to := from; to <= p.Len(); to++ {
 				if got, code := p.Slice(from, to); got != want || code != api.OK {
 					t.Fatalf("%x: Slice(%d, %d) = %x, %v", s, from, to, got, code)
 				}
 				if to < p.Len() {
 					want += s[spots[to].Byte : spots[to].Byte+spots[to].Width]
-					walk = append(walk, pair[int, rune]{to, spots[to].Rune})
+					walk = append(walk, trial.Pair[int, rune]{A: to, B: spots[to].Rune})
 				}
 			}
-			if got := collect(p.Walk(from)); !slices.Equal(got, walk) {
+			if got := trial.Collect(p.Walk(from)); !slices.Equal(got, walk) {
 				t.Fatalf("%x: Walk(%d) = %v", s, from, got)
 			}
 		}

@@ -1,56 +1,31 @@
 package utf_test
 
 import (
-	"iter"
 	"slices"
 	"testing"
 
 	"furrow/api"
+	"furrow/trial"
 	"furrow/utf"
 )
-
-// leaveEarly goes over seq up to each of its items in turn: nothing is told behind the one at which it was left, and the next walk begins anew.
-func leaveEarly[A, B comparable](t *testing.T, name string, seq iter.Seq2[A, B]) {
-	t.Helper()
-	all := collect(seq)
-	if len(all) < 4 {
-		t.Fatalf("%s: too little is told: %v", name, all)
-	}
-	for stop := 1; stop <= len(all); stop++ {
-		var got []pair[A, B]
-		seq(func(a A, b B) bool {
-			got = append(got, pair[A, B]{a, b})
-			return len(got) < stop
-		})
-		if !slices.Equal(got, all[:stop]) {
-			t.Errorf("%s: left at %d: %v", name, stop, got)
-		}
-	}
-	if got := collect(seq); !slices.Equal(got, all) {
-		t.Errorf("%s: gone over again: %v, not %v", name, got, all)
-	}
-	n := 0
-	for a, b := range seq {
-		if (pair[A, B]{a, b}) != all[n] {
-			t.Errorf("%s: with a walk within it: %v, %v at %d", name, a, b, n)
-		}
-		if got := collect(seq); !slices.Equal(got, all) {
-			t.Errorf("%s: within itself: %v", name, got)
-		}
-		n++
-	}
-}
 
 // P0.1, P1.2, P1.4, P1.5: iterators that are left early and gone over again.
 func TestIteratorsLeftEarly(t *testing.T) {
 	const s = "a\xc3\xa9\xe2\x82" + fffd + "\xff\xf0\x9f\x98\x80\xf0\x9f\x98"
-	leaveEarly(t, "All", utf.All(s))
-	leaveEarly(t, "Back", utf.Back(s))
-	leaveEarly(t, "Pieces", utf.Pieces(s))
-	leaveEarly(t, "Walk", utf.New(s).Walk(1))
-	leaveEarly(t, "Spots", func(yield func(api.Spot, bool) bool) {
+	spots := func(yield func(api.Spot, bool) bool) {
 		utf.Spots(s)(func(spot api.Spot) bool { return yield(spot, true) })
-	})
+	}
+	for name, wrong := range map[string]string{
+		"All":    trial.LeaveEarly(utf.All(s)),
+		"Back":   trial.LeaveEarly(utf.Back(s)),
+		"Pieces": trial.LeaveEarly(utf.Pieces(s)),
+		"Walk":   trial.LeaveEarly(utf.New(s).Walk(1)),
+		"Spots":  trial.LeaveEarly(spots),
+	} {
+		if wrong != "" {
+			t.Errorf("%s: %s", name, wrong)
+		}
+	}
 }
 
 // P0.1: what is handed in is not changed, spare room included, and not kept.

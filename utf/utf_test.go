@@ -9,6 +9,7 @@ import (
 	"unicode/utf8"
 
 	"furrow/api"
+	"furrow/trial"
 	"furrow/utf"
 )
 
@@ -93,11 +94,11 @@ func TestExample(t *testing.T) {
 	if utf.First(s) != spots[0] || utf.Last(s) != spots[3] {
 		t.Errorf("First %v, Last %v", utf.First(s), utf.Last(s))
 	}
-	all := []pair[int, rune]{{0, 'a'}, {1, 0xE9}, {3, 0xFFFD}, {4, 0xFFFD}}
-	if got := collect(utf.All(s)); !slices.Equal(got, all) {
+	all := []trial.Pair[int, rune]{{A: 0, B: 'a'}, {A: 1, B: 0xE9}, {A: 3, B: 0xFFFD}, {A: 4, B: 0xFFFD}}
+	if got := trial.Collect(utf.All(s)); !slices.Equal(got, all) {
 		t.Errorf("All %v", got)
 	}
-	if got := collect(utf.Back(s)); !slices.Equal(got, reversed(all)) {
+	if got := trial.Collect(utf.Back(s)); !slices.Equal(got, trial.Reversed(all)) {
 		t.Errorf("Back %v", got)
 	}
 }
@@ -116,7 +117,7 @@ func TestEmpty(t *testing.T) {
 	if l, wrong := utf.Strict(""); len(l) != 0 || wrong != nil {
 		t.Error(l, wrong)
 	}
-	if len(collect(utf.All("")))+len(collect(utf.Back("")))+len(collect(utf.Pieces("")))+len(slices.Collect(utf.Spots(""))) != 0 {
+	if len(trial.Collect(utf.All("")))+len(trial.Collect(utf.Back("")))+len(trial.Collect(utf.Pieces("")))+len(slices.Collect(utf.Spots(""))) != 0 {
 		t.Error("an iterator of the empty text tells something")
 	}
 }
@@ -135,8 +136,8 @@ func TestRightAndWrongReplaced(t *testing.T) {
 	if got := slices.Collect(utf.Spots(s)); !slices.Equal(got, want) {
 		t.Errorf("Spots %v", got)
 	}
-	pieces := []pair[string, rune]{{"\xff", 0xFFFD}, {fffd, 0xFFFD}, {"\xbd", 0xFFFD}, {fffd, 0xFFFD}, {"\xef\xbf", 0xFFFD}}
-	if got := collect(utf.Pieces(s)); !slices.Equal(got, pieces) {
+	pieces := []trial.Pair[string, rune]{{A: "\xff", B: 0xFFFD}, {A: fffd, B: 0xFFFD}, {A: "\xbd", B: 0xFFFD}, {A: fffd, B: 0xFFFD}, {A: "\xef\xbf", B: 0xFFFD}}
+	if got := trial.Collect(utf.Pieces(s)); !slices.Equal(got, pieces) {
 		t.Errorf("Pieces %v", got)
 	}
 	if at, code := utf.Check(fffd + fffd); at != 6 || code != api.OK {
@@ -252,7 +253,7 @@ func TestCheckAndStrict(t *testing.T) {
 
 // P1.3
 func TestStrictAndCheckAgree(t *testing.T) {
-	for s := range corpus() {
+	for s := range trial.Texts() {
 		at, code := utf.Check(s)
 		l, wrong := utf.Strict(s)
 		if utf8.ValidString(s) {
@@ -306,7 +307,7 @@ func TestParts(t *testing.T) {
 // P1.4, P1.12: held against all beginnings of all right sequences.
 func TestLongestParts(t *testing.T) {
 	isBeginning := beginnings()
-	for s := range corpus() {
+	for s := range trial.Texts() {
 		rest := s
 		for piece, r := range utf.Pieces(s) {
 			first, size := utf8.DecodeRuneInString(rest)
@@ -332,7 +333,7 @@ func TestLongestParts(t *testing.T) {
 // P1.12
 func TestPartsAndRunes(t *testing.T) {
 	isReplaced := func(r rune) bool { return r == 0xFFFD }
-	for s := range corpus() {
+	for s := range trial.Texts() {
 		parts, runes := utf.Parts(s), utf.Runes(s)
 		if len(parts) > len(runes) || utf8.ValidString(s) && !slices.Equal(parts, runes) {
 			t.Fatalf("%x: %x and %x", s, parts, runes)
@@ -345,12 +346,12 @@ func TestPartsAndRunes(t *testing.T) {
 
 // P1.2, P1.6
 func TestAsGoHasIt(t *testing.T) {
-	for s := range corpus() {
+	for s := range trial.Texts() {
 		runes := utf.Runes(s)
 		if !slices.Equal(runes, []rune(s)) || utf.Count(s) != utf8.RuneCountInString(s) {
 			t.Fatalf("%x: %x, %d", s, runes, utf.Count(s))
 		}
-		if got := collect(utf.All(s)); !slices.Equal(got, ranged(s)) {
+		if got := trial.Collect(utf.All(s)); !slices.Equal(got, trial.Ranged(s)) {
 			t.Fatalf("All(%x) = %v", s, got)
 		}
 		if utf.Encode(runes...) != string(runes) {
@@ -361,11 +362,11 @@ func TestAsGoHasIt(t *testing.T) {
 
 // P1.2, P1.7: Spots have no gaps, and are told as All tells them.
 func TestNothingIsLost(t *testing.T) {
-	for s := range corpus() {
-		end, all := 0, ranged(s)
+	for s := range trial.Texts() {
+		end, all := 0, trial.Ranged(s)
 		for i, spot := range slices.Collect(utf.Spots(s)) {
 			r, size := utf8.DecodeRuneInString(s[end:])
-			if spot.Byte != end || spot.Width != size || spot.Rune != r || (spot.Code != api.OK) != (r == 0xFFFD && size == 1) || all[i].a != end {
+			if spot.Byte != end || spot.Width != size || spot.Rune != r || (spot.Code != api.OK) != (r == 0xFFFD && size == 1) || all[i].A != end {
 				t.Fatalf("%x: %v, not %d wide %d %x", s, spot, end, size, r)
 			}
 			end += spot.Width
@@ -385,7 +386,7 @@ func TestNothingIsLost(t *testing.T) {
 
 // P1.2: First and Last are the ends of Spots.
 func TestEndsOfSpots(t *testing.T) {
-	for s := range corpus() {
+	for s := range trial.Texts() {
 		spots := slices.Collect(utf.Spots(s))
 		if len(spots) == 0 {
 			continue
@@ -398,8 +399,8 @@ func TestEndsOfSpots(t *testing.T) {
 
 // P1.8
 func TestFromBehind(t *testing.T) {
-	for s := range corpus() {
-		if got := collect(utf.Back(s)); !slices.Equal(got, reversed(ranged(s))) {
+	for s := range trial.Texts() {
+		if got := trial.Collect(utf.Back(s)); !slices.Equal(got, trial.Reversed(trial.Ranged(s))) {
 			t.Fatalf("Back(%x) = %v", s, got)
 		}
 	}
@@ -416,7 +417,7 @@ func TestThereAndBack(t *testing.T) {
 	if !slices.Equal(utf.Runes(utf.Encode(all...)), all) {
 		t.Error("all characters do not come back")
 	}
-	for s := range corpus() {
+	for s := range trial.Texts() {
 		if utf8.ValidString(s) && utf.Encode(utf.Runes(s)...) != s {
 			t.Fatalf("%x does not come back", s)
 		}
@@ -428,7 +429,7 @@ func TestMend(t *testing.T) {
 	if s := utf.Mend("a\xff\xe2\x82" + fffd + "\xc3\xa9"); s != "a"+fffd+fffd+fffd+fffd+"\xc3\xa9" {
 		t.Errorf("%x", s)
 	}
-	for s := range corpus() {
+	for s := range trial.Texts() {
 		mended := utf.Mend(s)
 		if at, code := utf.Check(mended); code != api.OK || at != len(mended) {
 			t.Fatalf("Mend(%x) = %x has a wrong byte", s, mended)
@@ -443,7 +444,9 @@ func TestMend(t *testing.T) {
 func TestInPieces(t *testing.T) {
 	var halves []string
 	for size := range 4 {
-		halves = slices.AppendSeq(halves, words("A\xac\x82\xc3\xe2\xf0\xff", size))
+		for half := range trial.Words([]byte("A\xac\x82\xc3\xe2\xf0\xff"), size) {
+			halves = append(halves, string(half))
+		}
 	}
 	halves = append(halves, fffd, "\xe2\x82\xac", "\xf0\x9f\x98\x80", "a\xf0\x9f\x98", "\x98\x80z")
 	for _, s := range halves {
