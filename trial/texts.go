@@ -4,6 +4,7 @@ package trial
 import (
 	"iter"
 	"slices"
+	"strings"
 	"unicode/utf8"
 )
 
@@ -27,6 +28,19 @@ func Words[T any](letters []T, size int) iter.Seq[[]T] {
 				return
 			}
 			digits[i]++
+		}
+	}
+}
+
+// Joined tells each text of up to most of the pieces, one behind the other.
+func Joined(pieces []string, most int) iter.Seq[string] {
+	return func(yield func(string) bool) {
+		for size := range most + 1 {
+			for word := range Words(pieces, size) {
+				if !yield(strings.Join(word, "")) {
+					return
+				}
+			}
 		}
 	}
 }

@@ -20,6 +20,13 @@ func TestWords(t *testing.T) {
 	}
 }
 
+func TestJoined(t *testing.T) {
+	got := slices.Collect(trial.Joined([]string{"a", "bc"}, 2))
+	if want := []string{"", "a", "bc", "aa", "abc", "bca", "bcbc"}; !slices.Equal(got, want) {
+		t.Error(got)
+	}
+}
+
 func TestTexts(t *testing.T) {
 	seen := map[string]bool{}
 	for s := range trial.Texts() {
