@@ -1,7 +1,6 @@
 package points_test
 
 import (
-	"iter"
 	"slices"
 	"testing"
 
@@ -41,19 +40,6 @@ func TestNilMap(t *testing.T) {
 	}
 }
 
-// beside tells each range of seq with its number.
-func beside(seq iter.Seq[api.Range]) iter.Seq2[int, api.Range] {
-	return func(yield func(int, api.Range) bool) {
-		n := 0
-		for r := range seq {
-			if !yield(n, r) {
-				return
-			}
-			n++
-		}
-	}
-}
-
 // P0.1, P4.3: iterators that are left early and gone over again.
 func TestIteratorsLeftEarly(t *testing.T) {
 	for _, m := range []*points.Map[string]{
@@ -63,7 +49,7 @@ func TestIteratorsLeftEarly(t *testing.T) {
 		if wrong := trial.LeaveEarly(m.All()); wrong != "" {
 			t.Error("All:", wrong)
 		}
-		if wrong := trial.LeaveEarly(beside(m.Gaps())); wrong != "" {
+		if wrong := trial.LeaveEarly(trial.Beside(m.Gaps())); wrong != "" {
 			t.Error("Gaps:", wrong)
 		}
 	}

@@ -39,6 +39,19 @@ func TestTexts(t *testing.T) {
 	}
 }
 
+func TestBeside(t *testing.T) {
+	got := trial.Collect(trial.Beside(slices.Values([]string{"a", "b", "c"})))
+	if want := trial.Collect(slices.All([]string{"a", "b", "c"})); !slices.Equal(got, want) {
+		t.Error(got)
+	}
+	for n, s := range trial.Beside(slices.Values([]string{"a", "b"})) {
+		if n != 0 || s != "a" {
+			t.Error(n, s)
+		}
+		break
+	}
+}
+
 // An iterator that may not be must not pass.
 func TestLeaveEarly(t *testing.T) {
 	letters := []string{"a", "b", "c", "d", "e"}

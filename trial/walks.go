@@ -21,6 +21,19 @@ func Collect[A, B any](seq iter.Seq2[A, B]) []Pair[A, B] {
 	return out
 }
 
+// Beside tells what seq tells, each with its number, from 0 on.
+func Beside[T any](seq iter.Seq[T]) iter.Seq2[int, T] {
+	return func(yield func(int, T) bool) {
+		n := 0
+		for x := range seq {
+			if !yield(n, x) {
+				return
+			}
+			n++
+		}
+	}
+}
+
 // Ranged is what Go's own range over s tells.
 func Ranged(s string) []Pair[int, rune] {
 	var out []Pair[int, rune]
