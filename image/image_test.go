@@ -7,6 +7,7 @@ import (
 	"furrow/api"
 	"furrow/base"
 	"furrow/image"
+	"furrow/trial"
 )
 
 // The chapter's examples.
@@ -47,7 +48,7 @@ func TestExamples(t *testing.T) {
 // isNone is whether Pack and Make refuse b.
 func isNone(t *testing.T, b *base.Base) {
 	t.Helper()
-	if p, e := image.Pack(b); e != api.ErrNil || !isSame(p, api.Packed{}) {
+	if p, e := image.Pack(b); e != api.ErrNil || !trial.SamePacked(p, api.Packed{}) {
 		t.Errorf("Pack answers %v, %v", p, e)
 	}
 	if s, e := image.Make(b); e != api.ErrNil || s != "" {
@@ -71,11 +72,11 @@ func TestPackOfNone(t *testing.T) {
 
 // P13.1, P13.7: bases of all sorts, each number from 0 to MaxRune asked; what Pack answers may be.
 func TestPack(t *testing.T) {
-	for what, f := range databases() {
+	for what, f := range trial.Databases() {
 		b := compiled(t, f)
-		want := askedOf(b)
+		want := trial.Asked(b)
 		p, e := image.Pack(b)
-		if e != api.OK || !isSame(p, want) {
+		if e != api.OK || !trial.SamePacked(p, want) {
 			t.Fatalf("%s: Pack answers %v, or other tables", what, e)
 		}
 		if !isChecked(t, what, p) {
@@ -99,11 +100,11 @@ func TestPackedValues(t *testing.T) {
 		{"the other ends", 0, 0, 0, 0}, {"the other ends", 1, 0x110000, 0, 0}, {"the other ends", 5, 0x10FFFB, 2, 0},
 		{"the other ends", 6, 0, 0, 0}, {"the other ends", 0x10FFFA, -6, 0x110000, 0}, {"the other ends", 0x10FFFF, -2, 0, 0},
 	} {
-		p, e := image.Pack(compiled(t, databases()[c.what]))
+		p, e := image.Pack(compiled(t, trial.Databases()[c.what]))
 		if e != api.OK {
 			t.Fatal(e)
 		}
-		if b, w, m := at(p.Bracket, c.r), at(p.Twin, c.r), at(p.Mirror, c.r); b != c.bracket || w != c.twin || m != c.mirror || at(p.Class, c.r) != api.ON {
+		if b, w, m := trial.ValueAt(p.Bracket, c.r), trial.ValueAt(p.Twin, c.r), trial.ValueAt(p.Mirror, c.r); b != c.bracket || w != c.twin || m != c.mirror || trial.ValueAt(p.Class, c.r) != api.ON {
 			t.Errorf("%s: %X has %X, %X, %X", c.what, c.r, b, w, m)
 		}
 	}
@@ -111,27 +112,27 @@ func TestPackedValues(t *testing.T) {
 
 // P13.1: what is the same as itself has no twin, nor has what is no bracket.
 func TestPackedTwins(t *testing.T) {
-	p, _ := image.Pack(compiled(t, databases()["twins"]))
+	p, _ := image.Pack(compiled(t, trial.Databases()["twins"]))
 	for r, twin := range map[int]int32{0x28: 0, 0x29: 0, 0x2329: 0x3009, 0x232A: 0x300A, 0x3008: 0, 0x3009: 0} {
-		if at(p.Twin, r) != twin {
-			t.Errorf("the twin of %X is %X", r, at(p.Twin, r))
+		if trial.ValueAt(p.Twin, r) != twin {
+			t.Errorf("the twin of %X is %X", r, trial.ValueAt(p.Twin, r))
 		}
 	}
-	p, _ = image.Pack(compiled(t, databases()["mirrors"]))
-	if at(p.Twin, 0xFFFD) != 0 || at(p.Mirror, 0xFFFD) != 0x10FFFF || at(p.Mirror, 0x10FFFE) != 0xFFFE || at(p.Bracket, 0x3C) != 0 {
+	p, _ = image.Pack(compiled(t, trial.Databases()["mirrors"]))
+	if trial.ValueAt(p.Twin, 0xFFFD) != 0 || trial.ValueAt(p.Mirror, 0xFFFD) != 0x10FFFF || trial.ValueAt(p.Mirror, 0x10FFFE) != 0xFFFE || trial.ValueAt(p.Bracket, 0x3C) != 0 {
 		t.Error("other values")
 	}
 }
 
 // P13.7: a class of each number, surrogates among them.
 func TestPackedClasses(t *testing.T) {
-	p, e := image.Pack(compiled(t, databases()["surrogates"]))
+	p, e := image.Pack(compiled(t, trial.Databases()["surrogates"]))
 	if e != api.OK {
 		t.Fatal(e)
 	}
 	for r, class := range map[int]api.Class{0: api.L, 0x58F: api.L, 0x590: api.R, 0x8FF: api.R, 0x900: api.L, 0xD7FF: api.L, 0xD800: api.AL, 0xD801: api.NSM, 0xDFFE: api.NSM, 0xDFFF: api.BN, 0xE000: api.L, 0x10FFFE: api.L, 0x10FFFF: api.B} {
-		if at(p.Class, r) != class {
-			t.Errorf("the class of %X is %d", r, at(p.Class, r))
+		if trial.ValueAt(p.Class, r) != class {
+			t.Errorf("the class of %X is %d", r, trial.ValueAt(p.Class, r))
 		}
 	}
 }
@@ -146,9 +147,9 @@ func TestPackOfUnlike(t *testing.T) {
 			}
 		}
 	}
-	b := compiled(t, api.Files{Classes: text(lines...)})
+	b := compiled(t, api.Files{Classes: trial.Text(lines...)})
 	p, e := image.Pack(b)
-	if e != api.OK || len(p.Class.Low) != count || len(p.Class.Mid) != 17408 || !isSame(p, askedOf(b)) {
+	if e != api.OK || len(p.Class.Low) != count || len(p.Class.Mid) != 17408 || !trial.SamePacked(p, trial.Asked(b)) {
 		t.Fatal(e, len(p.Class.Low), len(p.Class.Mid))
 	}
 	if !isChecked(t, "unlike blocks", p) {
@@ -160,7 +161,7 @@ func TestPackOfUnlike(t *testing.T) {
 func TestImagesApart(t *testing.T) {
 	var tables []api.Packed
 	var images []string
-	for _, f := range databases() {
+	for _, f := range trial.Databases() {
 		b := compiled(t, f)
 		p, _ := image.Pack(b)
 		s, _ := image.Make(compiled(t, b.Files()))
@@ -169,7 +170,7 @@ func TestImagesApart(t *testing.T) {
 	tables, images = append(tables, some(), plain()), append(images, saved(t, some()), saved(t, plain()))
 	for i := range tables {
 		for j := range tables {
-			if isSame(tables[i], tables[j]) != (images[i] == images[j]) {
+			if trial.SamePacked(tables[i], tables[j]) != (images[i] == images[j]) {
 				t.Errorf("%d and %d", i, j)
 			}
 		}

@@ -179,7 +179,7 @@ func TestThereAndBack(t *testing.T) {
 			twin[next()%count] = int32(next() % (count + 1))
 			mirror[next()%count] = int32(next() % (count + 1))
 		}
-		p := api.Packed{Class: partsOf(class), Bracket: partsOf(bracket), Twin: partsOf(twin), Mirror: partsOf(mirror)}
+		p := api.Packed{Class: trial.Parts(class), Bracket: trial.Parts(bracket), Twin: trial.Parts(twin), Mirror: trial.Parts(mirror)}
 		if !isChecked(t, fmt.Sprint(n), p) {
 			t.Errorf("%d: these may not be", n)
 		}

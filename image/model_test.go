@@ -2,16 +2,15 @@ package image_test
 
 import (
 	"encoding/binary"
-	"fmt"
 	"hash/crc32"
 	"slices"
-	"strings"
 	"sync"
 	"testing"
 
 	"furrow/api"
 	"furrow/base"
 	"furrow/image"
+	"furrow/trial"
 )
 
 const (
@@ -20,35 +19,6 @@ const (
 )
 
 // The words of the chapter, written down by Go's own means; nothing of the layers below is called but what tells what a base is like.
-
-// partsOf is the parts of the function that gives each number its value, by the words of chapter 11.
-func partsOf[V comparable](values []V) api.Parts[V] {
-	var p api.Parts[V]
-	var lows []uint16
-	p.Low, lows = numbered(values)
-	p.Mid, p.Top = numbered(lows)
-	return p
-}
-
-// numbered is the unlike blocks of 64, in the order in which they are first met, and the number of each that is met.
-func numbered[V comparable](list []V) (blocks []V, numbers []uint16) {
-	met := map[[64]V]uint16{}
-	for block := range slices.Chunk(list, 64) {
-		no, is := met[[64]V(block)]
-		if !is {
-			no = uint16(len(met))
-			met[[64]V(block)] = no
-			blocks = append(blocks, block...)
-		}
-		numbers = append(numbers, no)
-	}
-	return blocks, numbers
-}
-
-// at is what the parts lead to.
-func at[V any](p api.Parts[V], r int) V {
-	return p.Low[int(p.Mid[int(p.Top[r/4096])*64+r/64%64])*64+r%64]
-}
 
 // isFunction is whether p is the parts of some function.
 func isFunction[V comparable](p api.Parts[V]) bool {
@@ -69,7 +39,7 @@ func isNumbered[V comparable](numbers []uint16, blocks []V) bool {
 			next++
 		}
 	}
-	unlike, _ := numbered(blocks)
+	unlike, _ := trial.Numbered(blocks)
 	return next == len(blocks)/64 && len(unlike) == len(blocks)
 }
 
@@ -189,21 +159,12 @@ func classes(b []byte) []api.Class {
 	return out
 }
 
-func isSameParts[V comparable](a, b api.Parts[V]) bool {
-	return slices.Equal(a.Top, b.Top) && slices.Equal(a.Mid, b.Mid) && slices.Equal(a.Low, b.Low)
-}
-
-// isSame is whether the tables are the same, number by number of their sections.
-func isSame(a, b api.Packed) bool {
-	return isSameParts(a.Class, b.Class) && isSameParts(a.Bracket, b.Bracket) && isSameParts(a.Twin, b.Twin) && isSameParts(a.Mirror, b.Mirror)
-}
-
 // isLoaded holds what Load and Sections answer of s against the words, and Save of what Load takes against s; it tells which error there is.
 func isLoaded(t *testing.T, what, s string) api.Errno {
 	t.Helper()
 	want, places, why := loaded(s)
 	p, e := image.Load(s)
-	if e != why || !isSame(p, want) {
+	if e != why || !trial.SamePacked(p, want) {
 		t.Fatalf("%s: Load answers %v, not %v, or other tables", what, e, why)
 	}
 	l, e := image.Sections(s)
@@ -247,27 +208,6 @@ func isChecked(t *testing.T, what string, p api.Packed) bool {
 	return false
 }
 
-// askedOf is the packed tables of what props tell, each number from 0 to MaxRune asked.
-func askedOf(props api.Props) api.Packed {
-	class, bracket, twin, mirror := make([]api.Class, count), make([]int32, count), make([]int32, count), make([]int32, count)
-	for r := range rune(count) {
-		class[r] = props.Class(r)
-		switch other, side := props.Bracket(r); side {
-		case api.Opens:
-			bracket[r] = other + 1
-		case api.Closes:
-			bracket[r] = -other - 1
-		}
-		if as := props.Twin(r); as != r {
-			twin[r] = as + 1
-		}
-		if to, is := props.Mirror(r); is {
-			mirror[r] = to + 1
-		}
-	}
-	return api.Packed{Class: partsOf(class), Bracket: partsOf(bracket), Twin: partsOf(twin), Mirror: partsOf(mirror)}
-}
-
 // compiled is the base of files that are a database.
 func compiled(t *testing.T, f api.Files) *base.Base {
 	t.Helper()
@@ -278,96 +218,11 @@ func compiled(t *testing.T, f api.Files) *base.Base {
 	return b
 }
 
-// copied is p in memory of its own.
-func copied(p api.Packed) api.Packed {
-	return api.Packed{Class: copiedParts(p.Class), Bracket: copiedParts(p.Bracket), Twin: copiedParts(p.Twin), Mirror: copiedParts(p.Mirror)}
-}
-
-func copiedParts[V any](p api.Parts[V]) api.Parts[V] {
-	return api.Parts[V]{Top: slices.Clone(p.Top), Mid: slices.Clone(p.Mid), Low: slices.Clone(p.Low)}
-}
-
-// text is the lines, an end behind each.
-func text(lines ...string) string {
-	return strings.Join(lines, "\n") + "\n"
-}
-
-// row is a character's line: its number, class, twin ("": none) and whether it is mirrored.
-func row(point rune, class, twin, flag string) string {
-	return fmt.Sprintf("%04X;N;Ps;0;%s;%s;;;;%s;;;;;", point, class, twin, flag)
-}
-
-// databases are files of all sorts that are one.
-func databases() map[string]api.Files {
-	return map[string]api.Files{
-		"none": {},
-		"chapter 10's": {
-			Rows:     text(row(0x28, "ON", "", "Y"), row(0x29, "ON", "", "Y"), row(0x41, "L", "", "N")),
-			Classes:  text("0028..0029; ON"),
-			Brackets: text("0028; 0029; o", "0029; 0028; c"),
-			Mirrors:  text("0028; 0029", "0029; 0028"),
-		},
-		"twins": {
-			Rows:     text(row(0x28, "ON", "", "Y"), row(0x2329, "ON", "3008", "Y"), row(0x232A, "ON", "3009", "Y")),
-			Classes:  text("0028..0029; ON", "2329..232A; ON", "3008..3009; ON"),
-			Brackets: text("0028; 0029; o", "0029; 0028; c", "2329; 232A; o", "232A; 2329; c", "3008; 3009; o", "3009; 3008; c"),
-		},
-		"the ends": {
-			Rows:     text(row(0, "ON", "", "Y"), row(0x10FFFF, "ON", "", "Y")),
-			Classes:  text("# @missing: 0000..10FFFF; ON"),
-			Brackets: text("0000; 10FFFF; c", "10FFFF; 0000; o", "0001; 10FFFE; o", "10FFFE; 0001; c"),
-			Mirrors:  text("0000; 10FFFF", "10FFFF; 0000"),
-		},
-		"the other ends": {
-			Rows:     text(row(5, "ON", "0001", "N"), row(0x10FFFA, "ON", "10FFFF", "N")),
-			Classes:  text("# @missing: 0000..10FFFF; ON"),
-			Brackets: text("0001; 10FFFF; o", "10FFFF; 0001; c", "0005; 10FFFA; o", "10FFFA; 0005; c"),
-		},
-		"mirrors": {
-			Rows:    text(row(0x3C, "ON", "", "Y"), row(0x3E, "ON", "", "Y"), row(0xFFFD, "L", "0041", "Y"), row(0x10FFFE, "R", "", "Y")),
-			Classes: text("003C; ON", "003E; ON", "10FFFE; R"),
-			Mirrors: text("003C; 003E", "003E; 003C # [BEST FIT]", "FFFD; 10FFFE", "10FFFE; FFFD"),
-		},
-		"all classes": {Classes: manyClasses()},
-		"surrogates":  {Classes: text("# @missing: 0590..08FF; R", "D800; AL", "D801..DFFE; NSM", "DFFF; BN", "10FFFF; B")},
-		"many":        many(),
-	}
-}
-
-// manyClasses is a line for each class, and for stretches of many lengths.
-func manyClasses() string {
-	names := strings.Fields("L R AL EN ES ET AN CS NSM BN B S WS ON LRE LRO RLE RLO PDF LRI RLI FSI PDI")
-	var lines []string
-	at := 0
-	for i := range 500 {
-		to := at + i*i%701
-		lines = append(lines, fmt.Sprintf("%04X..%04X; %s", at, to, names[i%23]))
-		at = to + 1 + i%3
-	}
-	return text(lines...)
-}
-
-// many is files of pairs of brackets all over the numbers, each of which is a mirror, too, and has the first one as its twin.
-func many() api.Files {
-	var rows, brackets, mirrors []string
-	for i := range rune(900) {
-		one, other := i*1201+64, i*1201+64+i%100+1
-		twin, otherTwin := "0040", "0041"
-		if i == 0 {
-			twin, otherTwin = "", ""
-		}
-		rows = append(rows, row(one, "ON", twin, "Y"), row(other, "ON", otherTwin, "Y"))
-		brackets = append(brackets, fmt.Sprintf("%04X; %04X; o\n%04X; %04X; c", one, other, other, one))
-		mirrors = append(mirrors, fmt.Sprintf("%04X; %04X\n%04X; %04X", one, other, other, one))
-	}
-	return api.Files{Rows: text(rows...), Classes: text("# @missing: 0000..10FFFF; ON"), Brackets: text(brackets...), Mirrors: text(mirrors...)}
-}
-
 // some is tables with two or three middle blocks each, and as many low ones; whether they go together is nobody's matter here.
-func some() api.Packed { return copied(madeSome()) }
+func some() api.Packed { return trial.CopyPacked(madeSome()) }
 
 // plain is the tables of one value each.
-func plain() api.Packed { return copied(madePlain()) }
+func plain() api.Packed { return trial.CopyPacked(madePlain()) }
 
 var madeSome = sync.OnceValue(func() api.Packed {
 	class := slices.Repeat([]api.Class{api.L}, count)
@@ -379,10 +234,10 @@ var madeSome = sync.OnceValue(func() api.Packed {
 	bracket[0], bracket[0x10FFFF], bracket[0x2000], bracket[0x2001] = count, -count, 1, -1
 	twin[0x40], twin[0x10FFFE] = count, 1
 	mirror[0xFFFF], mirror[0x10000] = count, 1
-	return api.Packed{Class: partsOf(class), Bracket: partsOf(bracket), Twin: partsOf(twin), Mirror: partsOf(mirror)}
+	return api.Packed{Class: trial.Parts(class), Bracket: trial.Parts(bracket), Twin: trial.Parts(twin), Mirror: trial.Parts(mirror)}
 })
 
 var madePlain = sync.OnceValue(func() api.Packed {
-	none := func() api.Parts[int32] { return partsOf(make([]int32, count)) }
-	return api.Packed{Class: partsOf(slices.Repeat([]api.Class{api.L}, count)), Bracket: none(), Twin: none(), Mirror: none()}
+	none := func() api.Parts[int32] { return trial.Parts(make([]int32, count)) }
+	return api.Packed{Class: trial.Parts(slices.Repeat([]api.Class{api.L}, count)), Bracket: none(), Twin: none(), Mirror: none()}
 })

@@ -11,67 +11,20 @@ import (
 	"furrow/trial"
 )
 
-// spoil writes over all numbers of p, and the room behind them.
-func spoil(p api.Packed) {
-	spoilParts(p.Class)
-	spoilParts(p.Bracket)
-	spoilParts(p.Twin)
-	spoilParts(p.Mirror)
-}
-
-func spoilParts[V api.Class | int32](p api.Parts[V]) {
-	spoilList(p.Top)
-	spoilList(p.Mid)
-	spoilList(p.Low)
-}
-
-func spoilList[V api.Class | int32 | uint16](list []V) {
-	all := list[:cap(list)]
-	for i := range all {
-		all[i] = 99
-	}
-}
-
-// roomy is p in memory that goes on behind each of its lists.
-func roomy(p api.Packed) api.Packed {
-	return api.Packed{Class: roomyParts(p.Class), Bracket: roomyParts(p.Bracket), Twin: roomyParts(p.Twin), Mirror: roomyParts(p.Mirror)}
-}
-
-func roomyParts[V api.Class | int32](p api.Parts[V]) api.Parts[V] {
-	return api.Parts[V]{Top: roomyList(p.Top), Mid: roomyList(p.Mid), Low: roomyList(p.Low)}
-}
-
-func roomyList[V api.Class | int32 | uint16](list []V) []V {
-	out := append(slices.Clone(list), make([]V, 100)...)
-	for i := range 100 {
-		out[len(list)+i] = V(i)
-	}
-	return out[:len(list)]
-}
-
-// whole is p with the room behind each of its lists.
-func whole(p api.Packed) api.Packed {
-	return api.Packed{Class: wholeParts(p.Class), Bracket: wholeParts(p.Bracket), Twin: wholeParts(p.Twin), Mirror: wholeParts(p.Mirror)}
-}
-
-func wholeParts[V any](p api.Parts[V]) api.Parts[V] {
-	return api.Parts[V]{Top: p.Top[:cap(p.Top)], Mid: p.Mid[:cap(p.Mid)], Low: p.Low[:cap(p.Low)]}
-}
-
 // P0.1: what is handed to Check and Save stays as it was, the room behind it too, and is not kept.
 func TestNothingIsChangedOrKept(t *testing.T) {
 	for _, right := range []api.Packed{some(), plain()} {
-		p := roomy(right)
-		before := copied(whole(p))
+		p := trial.Roomy(right)
+		before := trial.CopyPacked(trial.Whole(p))
 		want := imaged(right)
 		if image.Check(p) != api.OK {
 			t.Fatal("refused")
 		}
 		s := saved(t, p)
-		if !isSame(whole(p), before) {
+		if !trial.SamePacked(trial.Whole(p), before) {
 			t.Fatal("what was handed in is changed")
 		}
-		spoil(p)
+		trial.Spoil(p)
 		if s != want || isLoaded(t, "kept", s) != api.OK {
 			t.Error("the image hangs on what was handed in")
 		}
@@ -84,8 +37,8 @@ func TestNothingIsChangedOrKept(t *testing.T) {
 
 // P0.1: what Pack and Load answer is memory of its own, each list of it, each time.
 func TestAnswersShareNothing(t *testing.T) {
-	b := compiled(t, databases()["twins"])
-	want := askedOf(b)
+	b := compiled(t, trial.Databases()["twins"])
+	want := trial.Asked(b)
 	s := imaged(want)
 	for what, call := range map[string]func() (api.Packed, api.Errno){
 		"Pack": func() (api.Packed, api.Errno) { return image.Pack(b) },
@@ -93,19 +46,19 @@ func TestAnswersShareNothing(t *testing.T) {
 	} {
 		kept, _ := call()
 		one, _ := call()
-		spoil(one)
-		if again, e := call(); e != api.OK || !isSame(again, want) || !isSame(kept, want) {
+		trial.Spoil(one)
+		if again, e := call(); e != api.OK || !trial.SamePacked(again, want) || !trial.SamePacked(kept, want) {
 			t.Errorf("%s: what is answered hangs on what was", what)
 		}
 		for kind := range 12 {
 			p, _ := call()
 			switch l := listsOf(p)[kind].(type) {
 			case []uint16:
-				spoilList(l)
+				trial.SpoilList(l)
 			case []api.Class:
-				spoilList(l)
+				trial.SpoilList(l)
 			case []int32:
-				spoilList(l)
+				trial.SpoilList(l)
 			}
 			for other, list := range listsOf(p) {
 				if other != kind && bytesOf(list) != bytesOf(listsOf(want)[other]) {
@@ -124,7 +77,7 @@ func TestAnswersShareNothing(t *testing.T) {
 
 // P0.1: the base stays as it was, and what is answered does not hang on what else is called.
 func TestBasesStay(t *testing.T) {
-	b, other := compiled(t, databases()["twins"]), compiled(t, databases()["many"])
+	b, other := compiled(t, trial.Databases()["twins"]), compiled(t, trial.Databases()["many"])
 	before := b.Files()
 	s, _ := image.Make(b)
 	for range 2 {
@@ -133,7 +86,7 @@ func TestBasesStay(t *testing.T) {
 		image.Load(s[1:])
 		image.Make(other)
 		p, _ := image.Pack(b)
-		spoil(p)
+		trial.Spoil(p)
 		if again, e := image.Make(b); again != s || e != api.OK || b.Files() != before {
 			t.Fatal("another image, or another base")
 		}
@@ -154,7 +107,7 @@ func TestAnyBytes(t *testing.T) {
 
 // P0.1: many at a time answer what each alone does.
 func TestAtOnce(t *testing.T) {
-	b := compiled(t, databases()["many"])
+	b := compiled(t, trial.Databases()["many"])
 	want, _ := image.Make(b)
 	done := make(chan bool)
 	for range 4 {

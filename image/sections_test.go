@@ -5,11 +5,12 @@ import (
 
 	"furrow/api"
 	"furrow/image"
+	"furrow/trial"
 )
 
 // P13.4, P13.8: the sections lie one behind the other from the byte 56 on, four bytes behind the last, and in them their numbers' bytes.
 func TestSections(t *testing.T) {
-	for what, f := range databases() {
+	for what, f := range trial.Databases() {
 		p, e := image.Pack(compiled(t, f))
 		if e != api.OK {
 			t.Fatal(what, e)

@@ -77,7 +77,7 @@ func TestOneBitTurned(t *testing.T) {
 // isTurned is whether Load and Sections refuse the bytes of an image in which bits from that one on were turned.
 func isTurned(t *testing.T, what string, bit int, b []byte) {
 	t.Helper()
-	if p, e := image.Load(string(b)); e != api.ErrSum || !isSame(p, api.Packed{}) {
+	if p, e := image.Load(string(b)); e != api.ErrSum || !trial.SamePacked(p, api.Packed{}) {
 		t.Fatalf("%s, turned at the bit %d: Load answers %v", what, bit, e)
 	}
 	if bit%97 == 0 {
